@@ -20,7 +20,7 @@ type plainNet struct {
 // plainLineForm is a word in small letters, and numbers behind it.
 var plainLineForm = regexp.MustCompile(`\A([a-z]+)((?: (?:0|[1-9][0-9]{0,6}))*)\z`)
 
-// lineKinds tells how many numbers each kind of line has; late has any pairs.
+// lineKinds tells how many numbers each kind of line has at least; late alone may have more: pairs.
 func lineKinds() map[string]int {
 	return map[string]int{
 		"meet": 5, "when": 3, "flood": 3, "send": 1, "give": 2, "take": 1, "lose": 1, "twice": 1,
@@ -40,7 +40,12 @@ func isLine(line string) (string, []int, bool) {
 		l = append(l, n)
 	}
 	many, known := lineKinds()[parts[1]]
-	return parts[1], l, known && (len(l) == many || parts[1] == "late" && len(l)%2 == 0)
+	return parts[1], l, known && hasItsNumbers(parts[1], len(l), many)
+}
+
+// hasItsNumbers tells whether so many stand behind a word that many belong to: late has one pair, or more.
+func hasItsNumbers(word string, given int, many int) bool {
+	return given == many || word == "late" && given > many && given%2 == 0
 }
 
 // worded is a word and numbers behind it, or no.
@@ -398,7 +403,7 @@ func TestMostLines(t *testing.T) {
 func TestLateLines(t *testing.T) {
 	wantLines(t,
 		"late 3 4 2 3 5 9 4 5 > in 1 2", "late 1 1 > in 0", "late 2 1 > in", "late 3 4 > in 0", "late 100 1000 100 99 > in 0",
-		"late > in", "late 3 > what", "late 3 4 2 > what", "late 3 4 2 3 5 > what", "late 0 > what",
+		"late > what", "late  > what", "late 3 > what", "late 3 4 2 > what", "late 3 4 2 3 5 > what", "late 0 > what",
 		"late 0 4 > no", "late 101 500 > no", "late 3 0 > no", "late 3 1001 > no", "late 9999999 4 > no", "late 3 9999999 > no", "late 3 4 0 0 > no",
 		lateLine(9, 2, 18)+" > in 0 1 2 3 4 5 6 7 8", lateLine(10, 2, 20)+" > in 0 1 2 3 4 5 6 7 8 9", lateLine(10, 2, 19)+" > in 0 1 2 3 4 5 6 7 8",
 		lateLine(11, 2, 22)+" > no", lateLine(100, 2, 22)+" > no", lateLine(10, 2, 20)+" 2 > what", lateLine(9, 2, 20)+" 2 > what", lateLine(100, 2, 22)+" 2 > what",
@@ -411,7 +416,7 @@ func TestOneWordTooManyAndTooFew(t *testing.T) {
 		for given := range 12 {
 			for _, number := range []string{"0", "1", "5", "9999999"} {
 				line := word + strings.Repeat(" "+number, given)
-				if given != many && (word != "late" || given%2 == 1) {
+				if !hasItsNumbers(word, given, many) {
 					wantUnknown(t, line)
 				} else if got := checkScript(t, line+"\n"); got[0] == "what" {
 					t.Errorf("RunNet(%q) = %q", line+"\n", got)
@@ -443,7 +448,7 @@ func TestWordsThatAreNone(t *testing.T) {
 			}
 		}
 	}
-	for _, line := range []string{"", " ", "  ", "\t", "\r", "\x00", "\xff", "0", "0 0", "meet", "meet0 1 5 10 2", "calm.", "calm 0", "late in", "late 3 four"} {
+	for _, line := range []string{"", " ", "  ", "\t", "\r", "\x00", "\xff", "0", "0 0", "meet", "meet0 1 5 10 2", "calm.", "calm 0", "late", "late ", "late in", "late 3 four"} {
 		wantUnknown(t, line)
 	}
 }
